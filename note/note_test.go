@@ -1,6 +1,7 @@
 package note_test
 
 import (
+	"fmt"
 	"reflect"
 	"regexp"
 	"strconv"
@@ -63,12 +64,17 @@ func plain(r api.Raw) api.Raw {
 	return out
 }
 
+// brief tells the beginning of something that may be long.
+func brief(r api.Raw) string {
+	return fmt.Sprintf("%.200s", fmt.Sprint(r))
+}
+
 // wantRaw holds s against what it declares; R2: no place beside it.
 func wantRaw(t *testing.T, s string, want api.Raw) {
 	t.Helper()
 	got, at, e := note.Parse(s)
 	if e != api.OK || at != 0 || !reflect.DeepEqual(plain(got), plain(want)) {
-		t.Errorf("P3.1: Parse(%.80q) = %.200v, %d, %d, not %.200v", s, got, at, e, want)
+		t.Errorf("P3.1: Parse(%.80q) = %s, %d, %d, not %s", s, brief(got), at, e, brief(want))
 	}
 }
 
@@ -77,7 +83,7 @@ func wantFault(t *testing.T, s string, at int, fault api.Errno) {
 	t.Helper()
 	got, place, e := note.Parse(s)
 	if e != fault || place != at || len(got.Starts)+len(got.Defs) != 0 {
-		t.Errorf("P3.1: Parse(%.80q) = %.200v, %d, %d, not %d, %d", s, got, place, e, at, fault)
+		t.Errorf("P3.1: Parse(%.80q) = %s, %d, %d, not %d, %d", s, brief(got), place, e, at, fault)
 	}
 }
 
