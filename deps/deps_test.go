@@ -3,47 +3,22 @@ package deps_test
 import (
 	"fmt"
 	"slices"
-	"strconv"
-	"strings"
 	"sync"
 	"testing"
 
 	"temple/api"
 	"temple/deps"
 	"temple/gram"
+	"temple/samples"
 )
 
 const biggest = int(^uint(0) >> 1)
 
-// ref is the symbol of a name's number.
-func ref(n int) api.Symbol {
-	return api.Symbol{Name: n}
-}
-
-func span(lo, hi int) api.Symbol {
-	return api.Symbol{Name: -1, Lo: lo, Hi: hi}
-}
-
-func row(symbols ...api.Symbol) api.Conjunct {
-	return api.Conjunct{Seq: symbols}
-}
-
-func rowNot(symbols ...api.Symbol) api.Conjunct {
-	return api.Conjunct{Neg: true, Seq: symbols}
-}
-
-func rule(head int, conjuncts ...api.Conjunct) api.Rule {
-	return api.Rule{Head: head, Conj: conjuncts}
-}
-
-// named is a grammar of so many names and some rules.
-func named(names int, rules ...api.Rule) api.Grammar {
-	g := api.Grammar{Rules: rules}
-	for i := range names {
-		g.Names = append(g.Names, "n"+strconv.Itoa(i))
-	}
-	return g
-}
+var (
+	ref, span   = samples.Ref, samples.Span
+	row, rowNot = samples.Row, samples.RowNot
+	rule, named = samples.Rule, samples.Named
+)
 
 // having is a grammar of three names whose first one has some conjuncts.
 func having(conjuncts ...api.Conjunct) api.Grammar {
@@ -296,105 +271,25 @@ func TestAllSmallGrammars(t *testing.T) {
 	}
 }
 
-// numbers is a row of numbers that looks like chance and is always the same.
-type numbers uint64
-
-func (r *numbers) next(n int) int {
-	*r = *r*6364136223846793005 + 1442695040888963407
-	return int(uint64(*r) >> 33 % uint64(n))
-}
-
-func (r *numbers) symbol(names int) api.Symbol {
-	if r.next(3) > 0 {
-		return ref(r.next(names))
-	}
-	lo := r.next(256)
-	return span(lo, lo+r.next(256-lo))
-}
-
-// grammar is one that may be, of up to so many names.
-func (r *numbers) grammar(most int) api.Grammar {
-	g := named(1 + r.next(most))
-	names := len(g.Names)
-	g.Start = r.next(names)
-	for head := range names {
-		for range 1 + r.next(3) {
-			x := rule(head)
-			for range 1 + r.next(3) {
-				c := api.Conjunct{Neg: r.next(2) == 0}
-				for range r.next(4) {
-					c.Seq = append(c.Seq, r.symbol(names))
-				}
-				x.Conj = append(x.Conj, c)
-			}
-			g.Rules = append(g.Rules, x)
-		}
-	}
-	return g
-}
-
 func TestMixedGrammars(t *testing.T) {
-	r := numbers(6)
+	r := samples.Numbers(6)
 	for range 3000 {
-		g := r.grammar(5)
+		g := r.Grammar(5)
 		want(t, g, plainly(g)...)
 	}
 	for range 100 {
-		g := r.grammar(api.MaxNames)
+		g := r.Grammar(api.MaxNames)
 		want(t, g, plainly(g)...)
 	}
 }
 
-// TestWhatMayNotBe breaks each condition of chapter 4 alone, so that each
-// grammar has ErrDepsForm for it.
+// TestWhatMayNotBe: each grammar that breaks a condition of chapter 4 has
+// ErrDepsForm for it.
 func TestWhatMayNotBe(t *testing.T) {
-	for _, c := range []struct {
-		what  string
-		spoil func(g *api.Grammar)
-	}{
-		{"nothing", func(g *api.Grammar) { *g = api.Grammar{} }},
-		{"no names", func(g *api.Grammar) { g.Names = nil }},
-		{"no rules", func(g *api.Grammar) { g.Rules = nil }},
-		{"a name too few", func(g *api.Grammar) { g.Names = g.Names[:1] }},
-		{"a name without a rule", func(g *api.Grammar) { g.Names = append(g.Names, "U") }},
-		{"too many names", func(g *api.Grammar) {
-			*g = named(api.MaxNames+1, append(eachHead(func(int) api.Conjunct { return row() }), rule(api.MaxNames, row()))...)
-		}},
-		{"two names the same", func(g *api.Grammar) { g.Names[1] = "S" }},
-		{"the name start", func(g *api.Grammar) { g.Names[1] = "start" }},
-		{"the name of no bytes", func(g *api.Grammar) { g.Names[1] = "" }},
-		{"a name with a digit ahead", func(g *api.Grammar) { g.Names[1] = "1T" }},
-		{"a name with a blank", func(g *api.Grammar) { g.Names[1] = "T " }},
-		{"a name too long", func(g *api.Grammar) { g.Names[1] = strings.Repeat("n", api.MaxName+1) }},
-		{"a start below", func(g *api.Grammar) { g.Start = -1 }},
-		{"a start above", func(g *api.Grammar) { g.Start = 2 }},
-		{"the smallest start", func(g *api.Grammar) { g.Start = -biggest - 1 }},
-		{"the greatest start", func(g *api.Grammar) { g.Start = biggest }},
-		{"heads that fall", func(g *api.Grammar) { g.Rules[0].Head = 1; g.Rules[2].Head = 0 }},
-		{"a head below", func(g *api.Grammar) { g.Rules[0].Head = -1 }},
-		{"a head above", func(g *api.Grammar) { g.Rules[2].Head = 2 }},
-		{"too many rules", func(g *api.Grammar) { g.Rules = append(repeat(rule(0, row()), api.MaxRules), g.Rules[2]) }},
-		{"no conjunct", func(g *api.Grammar) { g.Rules[1].Conj = nil }},
-		{"too many conjuncts", func(g *api.Grammar) { g.Rules[1].Conj = repeat(row(), api.MaxConj+1) }},
-		{"too many symbols", func(g *api.Grammar) { g.Rules[1].Conj[0].Seq = repeat(ref(0), api.MaxSeq+1) }},
-		{"too many in all", func(g *api.Grammar) {
-			full := rule(0, repeat(row(repeat(ref(0), api.MaxSeq)...), api.MaxConj)...)
-			g.Rules = append([]api.Rule{full, full}, g.Rules...)
-		}},
-		{"a symbol's name above", func(g *api.Grammar) { g.Rules[1].Conj[0].Seq = []api.Symbol{ref(2)} }},
-		{"a symbol's name below", func(g *api.Grammar) { g.Rules[1].Conj[0].Seq = []api.Symbol{ref(-2)} }},
-		{"a symbol's name far below", func(g *api.Grammar) { g.Rules[1].Conj[0].Seq = []api.Symbol{ref(-biggest - 1)} }},
-		{"a name with Lo", func(g *api.Grammar) { g.Rules[1].Conj[0].Seq = []api.Symbol{{Name: 1, Lo: 1}} }},
-		{"a name with Hi", func(g *api.Grammar) { g.Rules[1].Conj[0].Seq = []api.Symbol{{Name: 1, Hi: 1}} }},
-		{"a range the wrong way", func(g *api.Grammar) { g.Rules[1].Conj[0].Seq = []api.Symbol{span(2, 1)} }},
-		{"a range below", func(g *api.Grammar) { g.Rules[1].Conj[0].Seq = []api.Symbol{span(-1, 1)} }},
-		{"a range above", func(g *api.Grammar) { g.Rules[1].Conj[0].Seq = []api.Symbol{span(1, 256)} }},
-		{"a range above in the last conjunct", func(g *api.Grammar) { g.Rules[2].Conj[0].Seq[0] = span(0, 256) }},
-	} {
-		g := plain()
-		c.spoil(&g)
-		wantNone(t, c.what, g)
+	for _, c := range samples.MayNotBe() {
+		wantNone(t, c.What, c.Grammar)
 	}
+	want(t, samples.Plain(), is(0, 0), is(0, 1), isNot(0, 1))
 }
 
 // TestWhatMayJustBe: grammars at the limits have their edges, as many as can
@@ -430,49 +325,24 @@ func TestWhatMayJustBe(t *testing.T) {
 	wantNone(t, "one rule too many", g)
 }
 
-// roomy is plain, or what may not be, with spare room in each list, filled
-// with what would be seen.
-func roomy(may bool) api.Grammar {
-	g := plain()
-	if !may {
-		g.Start = 2
-	}
-	seq := append(make([]api.Symbol, 0, 8), g.Rules[0].Conj[0].Seq...)
-	g.Rules[0].Conj[0].Seq = append(seq, ref(77), span('m', 'm'))[:len(seq)]
-	conj := append(make([]api.Conjunct, 0, 8), g.Rules[0].Conj...)
-	g.Rules[0].Conj = append(conj, rowNot(ref(77)))[:len(conj)]
-	rules := append(make([]api.Rule, 0, 8), g.Rules...)
-	g.Rules = append(rules, rule(77, rowNot(ref(77))))[:len(rules)]
-	names := append(make([]string, 0, 8), g.Names...)
-	g.Names = append(names, "mark")[:len(names)]
-	return g
-}
-
-// whole tells a grammar with the spare room of each list.
-func whole(g api.Grammar) string {
-	rules := g.Rules[:cap(g.Rules)]
-	conj := rules[0].Conj[:cap(rules[0].Conj)]
-	seq := conj[0].Seq[:cap(conj[0].Seq)]
-	return fmt.Sprint(g.Start, g.Names[:cap(g.Names)], rules, conj, seq)
-}
-
 // TestGrammarStaysAsItWas: R4: what is handed in is not changed, its spare
 // room neither, and the edges do not hang on it any more.
 func TestGrammarStaysAsItWas(t *testing.T) {
-	for _, may := range []bool{true, false} {
-		g := roomy(may)
-		before := whole(g)
-		edges, _ := deps.Edges(g)
-		if whole(g) != before {
-			t.Errorf("R4: Edges changed %s into %s", before, whole(g))
+	spoiled := plain()
+	spoiled.Start = 2
+	for _, g := range []api.Grammar{plain(), spoiled} {
+		given := samples.Roomy(g)
+		edges, e := deps.Edges(given)
+		if !samples.Same(given, samples.Roomy(g)) {
+			t.Errorf("R4: Edges changed %v into %v", g, given)
 		}
-		g.Rules[0].Conj[0].Seq[0] = ref(0)
-		g.Rules[0].Conj[1].Neg = false
-		if may && !slices.Equal(edges, plainEdges()) {
+		given.Rules[0].Conj[0].Seq[0] = ref(0)
+		given.Rules[0].Conj[1].Neg = false
+		if e == api.OK && !slices.Equal(edges, plainEdges()) {
 			t.Errorf("R4: %v, not %v", edges, plainEdges())
 		}
 	}
-	want(t, roomy(true), plainEdges()...)
+	want(t, samples.Roomy(plain()), plainEdges()...)
 }
 
 // TestAnswersAreApart: R4: whoever changes an answer, its spare room too,
@@ -492,13 +362,13 @@ func TestAnswersAreApart(t *testing.T) {
 // TestNothingIsKept: R5: edges hang on the grammar alone; many times the same
 // call answers the same.
 func TestNothingIsKept(t *testing.T) {
-	r := numbers(66)
+	r := samples.Numbers(66)
 	for range 200 {
-		deps.Edges(r.grammar(api.MaxNames))
+		deps.Edges(r.Grammar(api.MaxNames))
 		deps.Edges(api.Grammar{})
 		want(t, plain(), plainEdges()...)
 	}
-	g := r.grammar(api.MaxNames)
+	g := r.Grammar(api.MaxNames)
 	edges, _ := deps.Edges(g)
 	for range 100 {
 		want(t, g, edges...)
@@ -522,17 +392,9 @@ func TestSeveralGoroutines(t *testing.T) {
 // TestGreatGrammars: R1: what is far too much is refused in a time that its
 // size explains.
 func TestGreatGrammars(t *testing.T) {
-	const much = 1 << 20
-	g := plain()
-	g.Names[0] = strings.Repeat("n", much)
-	wantNone(t, "a long name", g)
-	g.Names = repeat("S", much)
-	wantNone(t, "many names", g)
-	wantNone(t, "many symbols", having(row(repeat(ref(0), much)...)))
-	wantNone(t, "many conjuncts", having(repeat(row(), much)...))
-	g = plain()
-	g.Rules = append(repeat(rule(0, row()), much), rule(1, row()))
-	wantNone(t, "many rules", g)
+	for _, c := range samples.Great() {
+		wantNone(t, c.What, c.Grammar)
+	}
 }
 
 // TestAnyNumbers: R1: no numbers make a panic; what may be has its edges, all

@@ -11,19 +11,17 @@ import (
 	"temple/api"
 	"temple/gram"
 	"temple/note"
+	"temple/samples"
 	"temple/show"
 )
 
 const biggest = int(^uint(0) >> 1)
 
-// ref is the symbol of a name's number.
-func ref(n int) api.Symbol {
-	return api.Symbol{Name: n}
-}
-
-func span(lo, hi int) api.Symbol {
-	return api.Symbol{Name: -1, Lo: lo, Hi: hi}
-}
+var (
+	ref, span   = samples.Ref, samples.Span
+	row, rowNot = samples.Row, samples.RowNot
+	rule        = samples.Rule
+)
 
 // one is the symbols of a text's bytes.
 func one(s string) []api.Symbol {
@@ -41,18 +39,6 @@ func rows(all ...[]api.Symbol) []api.Symbol {
 		out = append(out, row...)
 	}
 	return out
-}
-
-func row(symbols ...api.Symbol) api.Conjunct {
-	return api.Conjunct{Seq: symbols}
-}
-
-func rowNot(symbols ...api.Symbol) api.Conjunct {
-	return api.Conjunct{Neg: true, Seq: symbols}
-}
-
-func rule(head int, conjuncts ...api.Conjunct) api.Rule {
-	return api.Rule{Head: head, Conj: conjuncts}
 }
 
 // having is a grammar of the names S and T, with one row of symbols in S.
@@ -308,56 +294,13 @@ func TestEachByteOfRanges(t *testing.T) {
 	wantRow(t, []api.Symbol{span(126, 127)}, `'~'..'\x7f'`)
 }
 
-// TestWhatMayNotBe breaks each condition of chapter 4 alone, so that each
-// grammar has ErrShowForm for it.
+// TestWhatMayNotBe: each grammar that breaks a condition of chapter 4 has
+// ErrShowForm for it.
 func TestWhatMayNotBe(t *testing.T) {
-	long := strings.Repeat("n", api.MaxName)
-	for _, c := range []struct {
-		what  string
-		spoil func(g *api.Grammar)
-	}{
-		{"nothing", func(g *api.Grammar) { *g = api.Grammar{} }},
-		{"no names", func(g *api.Grammar) { g.Names = nil }},
-		{"no rules", func(g *api.Grammar) { g.Rules = nil }},
-		{"a name too few", func(g *api.Grammar) { g.Names = g.Names[:1] }},
-		{"a name without a rule", func(g *api.Grammar) { g.Names = append(g.Names, "U") }},
-		{"two names the same", func(g *api.Grammar) { g.Names[1] = "S" }},
-		{"the name start", func(g *api.Grammar) { g.Names[1] = "start" }},
-		{"the name of no bytes", func(g *api.Grammar) { g.Names[1] = "" }},
-		{"a name with a digit ahead", func(g *api.Grammar) { g.Names[1] = "1T" }},
-		{"a name with a blank", func(g *api.Grammar) { g.Names[1] = "T " }},
-		{"a name with what would be read", func(g *api.Grammar) { g.Names[1] = "T = S; U" }},
-		{"a name too long", func(g *api.Grammar) { g.Names[1] = long + "n" }},
-		{"a start below", func(g *api.Grammar) { g.Start = -1 }},
-		{"a start above", func(g *api.Grammar) { g.Start = 2 }},
-		{"the smallest start", func(g *api.Grammar) { g.Start = -biggest - 1 }},
-		{"the greatest start", func(g *api.Grammar) { g.Start = biggest }},
-		{"heads that fall", func(g *api.Grammar) { g.Rules[0].Head = 1; g.Rules[2].Head = 0 }},
-		{"a head below", func(g *api.Grammar) { g.Rules[0].Head = -1 }},
-		{"a head above", func(g *api.Grammar) { g.Rules[2].Head = 2 }},
-		{"too many rules", func(g *api.Grammar) { g.Rules = append(repeat(rule(0, row()), api.MaxRules), g.Rules[2]) }},
-		{"no conjunct", func(g *api.Grammar) { g.Rules[1].Conj = nil }},
-		{"too many conjuncts", func(g *api.Grammar) { g.Rules[1].Conj = repeat(row(), api.MaxConj+1) }},
-		{"too many symbols", func(g *api.Grammar) { g.Rules[1].Conj[0].Seq = repeat(ref(0), api.MaxSeq+1) }},
-		{"too many in all", func(g *api.Grammar) {
-			full := rule(0, repeat(row(repeat(ref(0), api.MaxSeq)...), api.MaxConj)...)
-			g.Rules = append([]api.Rule{full, full}, g.Rules...)
-		}},
-		{"a symbol's name above", func(g *api.Grammar) { g.Rules[1].Conj[0].Seq = []api.Symbol{ref(2)} }},
-		{"a symbol's name below", func(g *api.Grammar) { g.Rules[1].Conj[0].Seq = []api.Symbol{ref(-2)} }},
-		{"a symbol's name far below", func(g *api.Grammar) { g.Rules[1].Conj[0].Seq = []api.Symbol{ref(-biggest - 1)} }},
-		{"a name with Lo", func(g *api.Grammar) { g.Rules[1].Conj[0].Seq = []api.Symbol{{Name: 1, Lo: 1}} }},
-		{"a name with Hi", func(g *api.Grammar) { g.Rules[1].Conj[0].Seq = []api.Symbol{{Name: 1, Hi: 1}} }},
-		{"a range the wrong way", func(g *api.Grammar) { g.Rules[1].Conj[0].Seq = []api.Symbol{span(2, 1)} }},
-		{"a range below", func(g *api.Grammar) { g.Rules[1].Conj[0].Seq = []api.Symbol{span(-1, 1)} }},
-		{"a range above", func(g *api.Grammar) { g.Rules[1].Conj[0].Seq = []api.Symbol{span(1, 256)} }},
-		{"a byte below", func(g *api.Grammar) { g.Rules[1].Conj[0].Seq = []api.Symbol{span(-1, -1)} }},
-		{"a byte above", func(g *api.Grammar) { g.Rules[1].Conj[0].Seq = []api.Symbol{span(256, 256)} }},
-	} {
-		g := plain()
-		c.spoil(&g)
-		wantNone(t, c.what, g)
+	for _, c := range samples.MayNotBe() {
+		wantNone(t, c.What, c.Grammar)
 	}
+	wantBack(t, samples.Plain())
 }
 
 // TestWhatMayJustBe: grammars at the limits, among them those of the longest
@@ -574,45 +517,20 @@ func TestEmptyListsAreNone(t *testing.T) {
 	}
 }
 
-// roomy is plain, or what may not be, with spare room in each list, filled
-// with what would be seen.
-func roomy(may bool) api.Grammar {
-	g := plain()
-	if !may {
-		g.Start = 2
-	}
-	seq := append(make([]api.Symbol, 0, 8), g.Rules[0].Conj[0].Seq...)
-	g.Rules[0].Conj[0].Seq = append(seq, ref(77), span('m', 'm'))[:len(seq)]
-	conj := append(make([]api.Conjunct, 0, 8), g.Rules[0].Conj...)
-	g.Rules[0].Conj = append(conj, rowNot(ref(77)))[:len(conj)]
-	rules := append(make([]api.Rule, 0, 8), g.Rules...)
-	g.Rules = append(rules, rule(77, rowNot(ref(77))))[:len(rules)]
-	names := append(make([]string, 0, 8), g.Names...)
-	g.Names = append(names, "mark")[:len(names)]
-	return g
-}
-
-// whole tells a grammar with the spare room of each list.
-func whole(g api.Grammar) string {
-	rules := g.Rules[:cap(g.Rules)]
-	conj := rules[0].Conj[:cap(rules[0].Conj)]
-	seq := conj[0].Seq[:cap(conj[0].Seq)]
-	return fmt.Sprint(g.Start, g.Names[:cap(g.Names)], rules, conj, seq)
-}
-
 // TestGrammarStaysAsItWas: R4: what is handed in is not changed, its spare
 // room neither, and the text does not hang on it any more.
 func TestGrammarStaysAsItWas(t *testing.T) {
-	for _, may := range []bool{true, false} {
-		g := roomy(may)
-		before := whole(g)
-		s, _ := show.Show(g)
-		if whole(g) != before {
-			t.Errorf("R4: Show changed %s into %s", before, whole(g))
+	spoiled := plain()
+	spoiled.Start = 2
+	for _, g := range []api.Grammar{plain(), spoiled} {
+		given := samples.Roomy(g)
+		s, _ := show.Show(given)
+		if !samples.Same(given, samples.Roomy(g)) {
+			t.Errorf("R4: Show changed %v into %v", g, given)
 		}
-		g.Names[0], g.Names[1] = "X", "Y"
-		g.Rules[0].Conj[0].Seq[0] = ref(0)
-		if want, _ := show.Show(roomy(may)); s != want {
+		given.Names[0], given.Names[1] = "X", "Y"
+		given.Rules[0].Conj[0].Seq[0] = ref(0)
+		if want, _ := show.Show(g); s != want {
 			t.Errorf("R4: %q, not %q", s, want)
 		}
 	}
@@ -623,7 +541,7 @@ func TestGrammarStaysAsItWas(t *testing.T) {
 func TestSharedLists(t *testing.T) {
 	seq := rows(one("ab"), []api.Symbol{ref(0)}, one("c"))
 	g := having()
-	g.Rules[0].Conj = []api.Conjunct{row(seq...), row(seq[:1]...), rowNot(seq[1:]...), row(seq...)}
+	g.Rules[0].Conj = []api.Conjunct{{Seq: seq}, {Seq: seq[:1]}, {Neg: true, Seq: seq[1:]}, {Seq: seq}}
 	wantText(t, g, "start S;\nS = \"ab\" S \"c\" & \"a\" & ~\"b\" S \"c\" & \"ab\" S \"c\";\nT = \"\";\n")
 }
 
@@ -658,19 +576,9 @@ func TestSeveralGoroutines(t *testing.T) {
 // TestGreatGrammars: R1: what is far too much is refused in a time that its
 // size explains.
 func TestGreatGrammars(t *testing.T) {
-	const much = 1 << 20
-	g := plain()
-	g.Names[0] = strings.Repeat("n", much)
-	wantNone(t, "a long name", g)
-	g.Names = repeat("S", much)
-	wantNone(t, "many names", g)
-	wantNone(t, "many symbols", having(repeat(ref(0), much)...))
-	g = plain()
-	g.Rules = append(repeat(rule(0, row()), much), rule(1, row()))
-	wantNone(t, "many rules", g)
-	g = plain()
-	g.Rules[0].Conj = repeat(row(), much)
-	wantNone(t, "many conjuncts", g)
+	for _, c := range samples.Great() {
+		wantNone(t, c.What, c.Grammar)
+	}
 }
 
 // TestAnyNumbers: R1: no numbers make a panic; what may be is shown and read

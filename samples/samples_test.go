@@ -1,0 +1,81 @@
+package samples_test
+
+import (
+	"testing"
+
+	"temple/api"
+	"temple/gram"
+	"temple/samples"
+)
+
+func TestPlainMayBe(t *testing.T) {
+	if !gram.May(samples.Plain()) {
+		t.Errorf("%v may not be", samples.Plain())
+	}
+}
+
+func TestSpoiledMayNotBe(t *testing.T) {
+	seen := make(map[string]int)
+	for _, s := range append(samples.MayNotBe(), samples.Great()...) {
+		if gram.May(s.Grammar) {
+			t.Errorf("%s: %v may be", s.What, s.Grammar)
+		}
+		if seen[s.What]++; seen[s.What] > 1 {
+			t.Errorf("%s: twice", s.What)
+		}
+	}
+	if len(seen) < 30 {
+		t.Errorf("%d grammars", len(seen))
+	}
+}
+
+func TestMixedMayBe(t *testing.T) {
+	r := samples.Numbers(1)
+	for range 1000 {
+		if g := r.Grammar(api.MaxNames); !gram.May(g) {
+			t.Fatalf("%v may not be", g)
+		}
+	}
+}
+
+// TestRoomyShowsChanges: a change in any list, and in the spare room of any,
+// is seen.
+func TestRoomyShowsChanges(t *testing.T) {
+	fresh := func() api.Grammar { return samples.Roomy(samples.Plain()) }
+	if !samples.Same(fresh(), fresh()) || !gram.May(fresh()) {
+		t.Fatalf("%v, %v", fresh(), fresh())
+	}
+	for what, change := range map[string]func(g *api.Grammar){
+		"the start":                   func(g *api.Grammar) { g.Start = 0 },
+		"fewer names":                 func(g *api.Grammar) { g.Names = g.Names[:1] },
+		"a name":                      func(g *api.Grammar) { g.Names[1] = "U" },
+		"spare room of names":         func(g *api.Grammar) { g.Names = append(g.Names, "U")[:2] },
+		"fewer rules":                 func(g *api.Grammar) { g.Rules = g.Rules[:2] },
+		"a head":                      func(g *api.Grammar) { g.Rules[1].Head = 1 },
+		"spare room of rules":         func(g *api.Grammar) { g.Rules = append(g.Rules, api.Rule{})[:3] },
+		"fewer conjuncts":             func(g *api.Grammar) { g.Rules[0].Conj = g.Rules[0].Conj[:1] },
+		"a sign":                      func(g *api.Grammar) { g.Rules[0].Conj[0].Neg = true },
+		"spare room of conjuncts":     func(g *api.Grammar) { _ = append(g.Rules[2].Conj, samples.Row()) },
+		"fewer symbols":               func(g *api.Grammar) { g.Rules[0].Conj[0].Seq = nil },
+		"a symbol":                    func(g *api.Grammar) { g.Rules[0].Conj[0].Seq[0] = samples.Ref(0) },
+		"spare room of symbols":       func(g *api.Grammar) { _ = append(g.Rules[2].Conj[0].Seq, samples.Ref(0)) },
+		"spare room of an empty list": func(g *api.Grammar) { _ = append(g.Rules[1].Conj[0].Seq, samples.Ref(0)) },
+	} {
+		g := fresh()
+		change(&g)
+		if samples.Same(g, fresh()) || samples.Same(fresh(), g) {
+			t.Errorf("%s: not seen", what)
+		}
+	}
+}
+
+// TestRoomyIsApart: whoever changes what Roomy answers changes nothing else.
+func TestRoomyIsApart(t *testing.T) {
+	g := samples.Plain()
+	h := samples.Roomy(g)
+	h.Names[0], h.Rules[0].Head, h.Rules[1].Conj[0].Neg = "X", 1, true
+	h.Rules[0].Conj[0].Seq[0] = samples.Ref(0)
+	if !samples.Same(samples.Roomy(g), samples.Roomy(samples.Plain())) {
+		t.Errorf("%v", g)
+	}
+}
