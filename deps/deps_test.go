@@ -12,8 +12,6 @@ import (
 	"temple/samples"
 )
 
-const biggest = int(^uint(0) >> 1)
-
 var (
 	ref, span   = samples.Ref, samples.Span
 	row, rowNot = samples.Row, samples.RowNot
@@ -186,7 +184,7 @@ func TestNumbersNotNames(t *testing.T) {
 func TestAllRows(t *testing.T) {
 	parts := []api.Conjunct{row(ref(2), ref(0)), rowNot(ref(1), ref(0)), row(ref(1)), rowNot(ref(2))}
 	edges := []api.Edge{is(0, 0), isNot(0, 0), is(0, 1), isNot(0, 1), is(0, 2), isNot(0, 2)}
-	eachOrder(len(parts), func(order []int) {
+	samples.EachOrder(len(parts), func(order []int) {
 		var inOne []api.Conjunct
 		var rules []api.Rule
 		for _, i := range order {
@@ -196,22 +194,6 @@ func TestAllRows(t *testing.T) {
 		want(t, having(inOne...), edges...)
 		want(t, named(3, append(rules, rule(1, row()), rule(2, row()))...), edges...)
 	})
-}
-
-// eachOrder tells each row of the numbers below n.
-func eachOrder(n int, tell func(order []int)) {
-	var grow func(begun []int)
-	grow = func(begun []int) {
-		if len(begun) == n {
-			tell(begun)
-		}
-		for i := range n {
-			if !slices.Contains(begun, i) {
-				grow(append(slices.Clone(begun), i))
-			}
-		}
-	}
-	grow(nil)
 }
 
 // plainly is the chapter's sentence once more: all edges that there could be,
@@ -400,16 +382,8 @@ func TestGreatGrammars(t *testing.T) {
 // TestAnyNumbers: R1: no numbers make a panic; what may be has its edges, all
 // else is refused.
 func TestAnyNumbers(t *testing.T) {
-	ends := []int{-biggest - 1, -257, -2, -1, 0, 1, 2, 3, 255, 256, 1 << 32, biggest}
-	for _, a := range ends {
-		for _, b := range ends {
-			for _, c := range ends {
-				wantTold(t, having(rowNot(api.Symbol{Name: a, Lo: b, Hi: c})))
-				g := plain()
-				g.Start, g.Rules[0].Head, g.Rules[2].Head = a, b, c
-				wantTold(t, g)
-			}
-		}
+	for _, g := range samples.AnyNumbers() {
+		wantTold(t, g)
 	}
 }
 

@@ -7,10 +7,8 @@ import (
 	"strconv"
 
 	"temple/api"
+	"temple/symbols"
 )
-
-// noName is the Name of a symbol that is a range of bytes.
-const noName = -1
 
 // Ref is the symbol of a name's number.
 func Ref(n int) api.Symbol {
@@ -19,7 +17,7 @@ func Ref(n int) api.Symbol {
 
 // Span is the symbol of a range of bytes.
 func Span(lo, hi int) api.Symbol {
-	return api.Symbol{Name: noName, Lo: lo, Hi: hi}
+	return api.Symbol{Name: symbols.NoName, Lo: lo, Hi: hi}
 }
 
 // Row is a conjunct of some symbols.

@@ -79,3 +79,42 @@ func TestRoomyIsApart(t *testing.T) {
 		t.Errorf("%v", g)
 	}
 }
+
+func TestReadGrammars(t *testing.T) {
+	if g := samples.Read(`start S; S = "a" S | "";`); !gram.May(g) || len(g.Rules) != 2 {
+		t.Errorf("%v", g)
+	}
+	for _, text := range []string{"", "start S; S = ", "start S; S = T;"} {
+		if g := samples.Read(text); gram.May(g) {
+			t.Errorf("%q: %v may be", text, g)
+		}
+	}
+}
+
+// TestAnyNumbersAreBoth: some of them make what may be, some do not.
+func TestAnyNumbersAreBoth(t *testing.T) {
+	may, all := 0, samples.AnyNumbers()
+	for _, g := range all {
+		if gram.May(g) {
+			may++
+		}
+	}
+	if may < 10 || may > len(all)-1000 {
+		t.Errorf("%d of %d may be", may, len(all))
+	}
+}
+
+func TestEachOrderAndChoice(t *testing.T) {
+	orders, choices := make(map[[3]int]int), make(map[[3]int]int)
+	samples.EachOrder(3, func(order []int) { orders[[3]int(order)]++ })
+	samples.EachChoice(3, 4, func(chosen []int) { choices[[3]int(chosen)]++ })
+	if len(orders) != 6 || len(choices) != 64 || orders[[3]int{2, 0, 1}] != 1 || choices[[3]int{3, 0, 3}] != 1 {
+		t.Errorf("%v, %v", orders, choices)
+	}
+	count := 0
+	samples.EachOrder(0, func([]int) { count++ })
+	samples.EachChoice(0, 3, func([]int) { count++ })
+	if count != 2 {
+		t.Errorf("%d rows of no numbers", count)
+	}
+}

@@ -15,8 +15,6 @@ import (
 	"temple/show"
 )
 
-const biggest = int(^uint(0) >> 1)
-
 var (
 	ref, span   = samples.Ref, samples.Span
 	row, rowNot = samples.Row, samples.RowNot
@@ -584,16 +582,8 @@ func TestGreatGrammars(t *testing.T) {
 // TestAnyNumbers: R1: no numbers make a panic; what may be is shown and read
 // again, all else is refused.
 func TestAnyNumbers(t *testing.T) {
-	edges := []int{-biggest - 1, -257, -2, -1, 0, 1, 2, 255, 256, 1 << 32, biggest}
-	for _, a := range edges {
-		for _, b := range edges {
-			for _, c := range edges {
-				wantTold(t, having(api.Symbol{Name: a, Lo: b, Hi: c}))
-				g := plain()
-				g.Start, g.Rules[0].Head, g.Rules[2].Head = a, b, c
-				wantTold(t, g)
-			}
-		}
+	for _, g := range samples.AnyNumbers() {
+		wantTold(t, g)
 	}
 }
 

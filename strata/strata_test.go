@@ -2,7 +2,6 @@ package strata_test
 
 import (
 	"fmt"
-	"math"
 	"slices"
 	"sync"
 	"testing"
@@ -10,7 +9,6 @@ import (
 	"temple/api"
 	"temple/deps"
 	"temple/gram"
-	"temple/note"
 	"temple/samples"
 	"temple/strata"
 )
@@ -60,20 +58,6 @@ func needing(names int, edges ...api.Edge) api.Grammar {
 			}
 		}
 		g.Rules = append(g.Rules, x)
-	}
-	return g
-}
-
-// read is the grammar of a text.
-func read(t *testing.T, text string) api.Grammar {
-	t.Helper()
-	raw, at, e := note.Parse(text)
-	if e != api.OK {
-		t.Fatalf("%q: %d at %d", text, e, at)
-	}
-	g, who, e := gram.Build(raw)
-	if e != api.OK {
-		t.Fatalf("%q: %d of %q", text, e, who)
 	}
 	return g
 }
@@ -129,10 +113,10 @@ func TestMayNotBeComesFirst(t *testing.T) {
 }
 
 func TestTexts(t *testing.T) {
-	wantLevels(t, read(t, `start S; S = "a" S | "";`), 0)
-	wantLevels(t, read(t, `start S; S = A & ~ B | "x"; A = "a" A | ""; B = ~ A "b" & S2; S2 = "";`), 2, 0, 1, 0)
-	wantCycle(t, read(t, `start S; S = ~ S;`), 0)
-	wantCycle(t, read(t, `start S; S = "a" | T & ~ "b"; T = "c" & ~ "d" S "e";`), 1, 0)
+	wantLevels(t, samples.Read(`start S; S = "a" S | "";`), 0)
+	wantLevels(t, samples.Read(`start S; S = A & ~ B | "x"; A = "a" A | ""; B = ~ A "b" & S2; S2 = "";`), 2, 0, 1, 0)
+	wantCycle(t, samples.Read(`start S; S = ~ S;`), 0)
+	wantCycle(t, samples.Read(`start S; S = "a" | T & ~ "b"; T = "c" & ~ "d" S "e";`), 1, 0)
 }
 
 func TestItself(t *testing.T) {
@@ -287,7 +271,7 @@ func TestRings(t *testing.T) {
 func TestWhateverTheRow(t *testing.T) {
 	edges := []api.Edge{isNot(0, 1), is(1, 2), isNot(2, 3), is(0, 3), is(2, 1)}
 	levels := []int{2, 1, 1, 0}
-	eachOrder(4, func(order []int) {
+	samples.EachOrder(4, func(order []int) {
 		var turned []api.Edge
 		want := make([]int, 4)
 		for _, e := range edges {
@@ -299,7 +283,7 @@ func TestWhateverTheRow(t *testing.T) {
 		wantLevels(t, needing(4, turned...), want...)
 	})
 	parts := []api.Conjunct{row(ref(1), ref(0)), rowNot(ref(2)), row(ref(2)), rowNot()}
-	eachOrder(4, func(order []int) {
+	samples.EachOrder(4, func(order []int) {
 		var rules []api.Rule
 		var inOne []api.Conjunct
 		for _, i := range order {
@@ -309,22 +293,6 @@ func TestWhateverTheRow(t *testing.T) {
 		wantLevels(t, named(3, append(rules, rest...)...), 2, 0, 1)
 		wantLevels(t, named(3, append([]api.Rule{rule(0, inOne...)}, rest...)...), 2, 0, 1)
 	})
-}
-
-// eachOrder tells each row of the numbers below n.
-func eachOrder(n int, tell func(order []int)) {
-	var grow func(begun []int)
-	grow = func(begun []int) {
-		if len(begun) == n {
-			tell(begun)
-		}
-		for i := range n {
-			if !slices.Contains(begun, i) {
-				grow(append(slices.Clone(begun), i))
-			}
-		}
-	}
-	grow(nil)
 }
 
 // TestStartSaysNothing: neither the start nor what names are called counts.
@@ -413,7 +381,7 @@ func wantPlainly(t *testing.T, g api.Grammar) bool {
 func TestAllSmallGrammars(t *testing.T) {
 	for _, c := range []struct{ names, kinds int }{{1, 4}, {2, 4}, {3, 3}} {
 		cycles, levels := 0, 0
-		eachChoice(c.names*c.names, c.kinds, func(chosen []int) {
+		samples.EachChoice(c.names*c.names, c.kinds, func(chosen []int) {
 			var edges []api.Edge
 			for i, kind := range chosen {
 				from, to := i/c.names, i%c.names
@@ -433,30 +401,13 @@ func TestAllSmallGrammars(t *testing.T) {
 	}
 }
 
-// eachChoice tells each row of n numbers below some.
-func eachChoice(n, below int, tell func(chosen []int)) {
-	chosen := make([]int, n)
-	for {
-		tell(chosen)
-		at := 0
-		for at < n && chosen[at] == below-1 {
-			chosen[at] = 0
-			at++
-		}
-		if at == n {
-			return
-		}
-		chosen[at]++
-	}
-}
-
 // wantLeast: P8.1: levels are as the edges ask, and all others that are have
 // none below them.
 func wantLeast(t *testing.T, g api.Grammar, edges []api.Edge) {
 	t.Helper()
 	levels, _, _ := strata.Strata(g)
 	found := false
-	eachChoice(len(g.Names), len(g.Names), func(chosen []int) {
+	samples.EachChoice(len(g.Names), len(g.Names), func(chosen []int) {
 		for _, e := range edges {
 			if chosen[e.From] < chosen[e.To] || e.Neg && chosen[e.From] == chosen[e.To] {
 				return
@@ -625,18 +576,8 @@ func TestGreatGrammars(t *testing.T) {
 // TestAnyNumbers: R1: no numbers make a panic; what may be is told of, all
 // else is refused.
 func TestAnyNumbers(t *testing.T) {
-	ends := []int{math.MinInt, -257, -2, -1, 0, 1, 2, 255, 256, 1 << 32, math.MaxInt}
-	for _, a := range ends {
-		for _, b := range ends {
-			for _, c := range ends {
-				g := samples.Plain()
-				g.Rules[2].Conj[0].Seq[0] = api.Symbol{Name: a, Lo: b, Hi: c}
-				wantTold(t, g)
-				g = samples.Plain()
-				g.Start, g.Rules[0].Head, g.Rules[2].Head = a, b, c
-				wantTold(t, g)
-			}
-		}
+	for _, g := range samples.AnyNumbers() {
+		wantTold(t, g)
 	}
 }
 
