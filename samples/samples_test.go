@@ -1,11 +1,13 @@
 package samples_test
 
 import (
+	"slices"
 	"testing"
 
 	"temple/api"
 	"temple/gram"
 	"temple/samples"
+	"temple/strata"
 )
 
 func TestPlainMayBe(t *testing.T) {
@@ -35,6 +37,48 @@ func TestMixedMayBe(t *testing.T) {
 		if g := r.Grammar(api.MaxNames); !gram.May(g) {
 			t.Fatalf("%v may not be", g)
 		}
+	}
+}
+
+// TestLeveledHasLevels: no cycle has a negation, and there are some.
+func TestLeveledHasLevels(t *testing.T) {
+	r := samples.Numbers(2)
+	high, negated := 0, 0
+	for range 1000 {
+		g := r.Leveled(6)
+		levels, _, e := strata.Strata(g)
+		if e != api.OK {
+			t.Fatalf("%v: %d", g, e)
+		}
+		if top := slices.Max(levels); top > 0 {
+			negated++
+			high = max(high, top)
+		}
+	}
+	if high < 3 || negated < 300 {
+		t.Errorf("%d with levels, up to %d", negated, high)
+	}
+}
+
+func TestTextsAreShort(t *testing.T) {
+	r := samples.Numbers(3)
+	lengths := make(map[int]int)
+	for range 1000 {
+		w := r.Text(5)
+		lengths[len(w)]++
+		for _, c := range []byte(w) {
+			if c < 'a' || c > 'c' {
+				t.Fatalf("%q", w)
+			}
+		}
+	}
+	for n := range 6 {
+		if lengths[n] == 0 {
+			t.Errorf("no text of %d bytes", n)
+		}
+	}
+	if len(lengths) != 6 {
+		t.Errorf("%v", lengths)
 	}
 }
 

@@ -1,5 +1,12 @@
 // Package symbols: what the layers share of a grammar's symbols.
 package symbols
 
+import "temple/api"
+
 // NoName is the Name of a symbol that is a range of bytes.
 const NoName = -1
+
+// IsByte: is s a range with the byte c in it?
+func IsByte(s api.Symbol, c byte) bool {
+	return s.Name == NoName && s.Lo <= int(c) && int(c) <= s.Hi
+}
