@@ -10,3 +10,14 @@ const NoName = -1
 func IsByte(s api.Symbol, c byte) bool {
 	return s.Name == NoName && s.Lo <= int(c) && int(c) <= s.Hi
 }
+
+// AllMarked: is each symbol of a row a name that has its mark? One of no
+// symbols has none that is not.
+func AllMarked(row []api.Symbol, marks []bool) bool {
+	for _, s := range row {
+		if s.Name == NoName || !marks[s.Name] {
+			return false
+		}
+	}
+	return true
+}

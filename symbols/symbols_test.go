@@ -20,3 +20,25 @@ func TestIsByte(t *testing.T) {
 		t.Error("a name has a byte")
 	}
 }
+
+func TestAllMarked(t *testing.T) {
+	marked, not, byte0 := api.Symbol{Name: 1}, api.Symbol{Name: 0}, api.Symbol{Name: symbols.NoName}
+	marks := []bool{false, true}
+	for _, c := range []struct {
+		row []api.Symbol
+		all bool
+	}{
+		{nil, true},
+		{[]api.Symbol{marked}, true},
+		{[]api.Symbol{marked, marked}, true},
+		{[]api.Symbol{not}, false},
+		{[]api.Symbol{byte0}, false},
+		{[]api.Symbol{marked, not}, false},
+		{[]api.Symbol{not, marked}, false},
+		{[]api.Symbol{marked, byte0, marked}, false},
+	} {
+		if got := symbols.AllMarked(c.row, marks); got != c.all {
+			t.Errorf("%v: %v", c.row, got)
+		}
+	}
+}
