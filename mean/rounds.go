@@ -39,7 +39,7 @@ func (k *work) rankAll() {
 // names by rules that negate all of their conjuncts.
 func (r *rounds) first() {
 	for n, p := range r.places {
-		if _, ok := r.symbol(p); !ok {
+		if _, ok := symbols.At(r.g, p); !ok {
 			r.giveAll(r.names+n, func(i, j int) bool { return i == j })
 		}
 	}
@@ -88,7 +88,7 @@ func (r *rounds) follow(f fact) {
 		return
 	}
 	p.Pos--
-	s, _ := r.symbol(p)
+	s, _ := symbols.At(r.g, p)
 	r.followRest(s, f)
 }
 

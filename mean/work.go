@@ -59,19 +59,10 @@ func (k *work) lay(p api.Place, rest int) {
 	if p.Pos == 0 {
 		k.whole[p.Rule] = append(k.whole[p.Rule], rest)
 	}
-	if s, ok := k.symbol(p); ok && s.Name != symbols.NoName {
+	if s, ok := symbols.At(k.g, p); ok && s.Name != symbols.NoName {
 		k.needs[p.Rule] |= 1 << s.Name
 		k.ahead[s.Name] = append(k.ahead[s.Name], rest)
 	}
-}
-
-// symbol is what stands at a place; false, if that is its conjunct's end.
-func (k *work) symbol(p api.Place) (api.Symbol, bool) {
-	seq := k.g.Rules[p.Rule].Conj[p.Conj].Seq
-	if p.Pos == len(seq) {
-		return api.Symbol{}, false
-	}
-	return seq[p.Pos], true
 }
 
 // holds: does a rule hold of a span, by what its rests have?

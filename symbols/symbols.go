@@ -21,3 +21,12 @@ func AllMarked(row []api.Symbol, marks []bool) bool {
 	}
 	return true
 }
+
+// At is what stands at a place of g; false, if that is its conjunct's end.
+func At(g api.Grammar, p api.Place) (api.Symbol, bool) {
+	seq := g.Rules[p.Rule].Conj[p.Conj].Seq
+	if p.Pos == len(seq) {
+		return api.Symbol{}, false
+	}
+	return seq[p.Pos], true
+}

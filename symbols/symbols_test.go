@@ -42,3 +42,26 @@ func TestAllMarked(t *testing.T) {
 		}
 	}
 }
+
+func TestAt(t *testing.T) {
+	name, byte0 := api.Symbol{Name: 1}, api.Symbol{Name: symbols.NoName}
+	g := api.Grammar{Rules: []api.Rule{
+		{Conj: []api.Conjunct{{}}},
+		{Conj: []api.Conjunct{{}, {Neg: true, Seq: []api.Symbol{name, byte0}}}},
+	}}
+	for _, c := range []struct {
+		place  api.Place
+		symbol api.Symbol
+		ok     bool
+	}{
+		{api.Place{}, api.Symbol{}, false},
+		{api.Place{Rule: 1}, api.Symbol{}, false},
+		{api.Place{Rule: 1, Conj: 1}, name, true},
+		{api.Place{Rule: 1, Conj: 1, Pos: 1}, byte0, true},
+		{api.Place{Rule: 1, Conj: 1, Pos: 2}, api.Symbol{}, false},
+	} {
+		if got, ok := symbols.At(g, c.place); got != c.symbol || ok != c.ok {
+			t.Errorf("%v: %v, %v", c.place, got, ok)
+		}
+	}
+}
