@@ -345,36 +345,10 @@ func TestBytesAlone(t *testing.T) {
 	}
 }
 
-// greatest is a grammar of as many names, rules, conjuncts and symbols as there
-// can be, whose names, leaning on one another, have all texts of two bytes.
-func greatest() api.Grammar {
-	g := named(api.MaxNames)
-	for head := range api.MaxNames {
-		on := func(n int) api.Symbol { return ref((head + n) % api.MaxNames) }
-		for _, conjuncts := range [][]api.Conjunct{
-			alt(row()),
-			alt(row(span('a', 'b')), row(span('a', 'b'), on(2), on(3))),
-			alt(row(on(1), on(2), span('a', 'b'), on(63)), row(on(7), on(9))),
-			alt(row(on(0), on(5)), row(on(1), on(63)), row(on(3), on(4))),
-		} {
-			// What is not empty, or has no bytes, said once more.
-			more := api.Conjunct{Neg: len(conjuncts) > 1}
-			for len(conjuncts) < api.MaxConj {
-				conjuncts = append(conjuncts, more)
-			}
-			g.Rules = append(g.Rules, rule(head, conjuncts...))
-		}
-	}
-	return g
-}
-
 // TestGreatest: a grammar and a text that are as great as they can be have a
 // table in a time that their sizes explain.
 func TestGreatest(t *testing.T) {
-	g, w := greatest(), strings.Repeat("abba", api.MaxInput/4)
-	if got, most := seqs.Count(g), api.MaxSymbols+api.MaxRules*api.MaxConj; got != most || len(w) != api.MaxInput {
-		t.Fatalf("%d places, not %d", got, most)
-	}
+	g, w := samples.Greatest(), strings.Repeat("abba", api.MaxInput/4)
 	x := wantAgain(t, g, w)
 	eachSpan(w, func(i, j int) {
 		for n := range g.Names {

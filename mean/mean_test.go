@@ -642,18 +642,6 @@ func told(x *mean.Table, g api.Grammar, w string) string {
 	return out.String()
 }
 
-// overwrite changes all of a grammar that can be changed in its lists.
-func overwrite(g api.Grammar) {
-	for _, r := range g.Rules {
-		for c := range r.Conj {
-			clear(r.Conj[c].Seq)
-			r.Conj[c] = api.Conjunct{Neg: !r.Conj[c].Neg}
-		}
-	}
-	clear(g.Rules)
-	clear(g.Names)
-}
-
 // TestGrammarStaysAsItWas: R4: what is handed in is not changed, its spare room
 // neither, and a table does not hang on it any more.
 func TestGrammarStaysAsItWas(t *testing.T) {
@@ -672,7 +660,7 @@ func TestGrammarStaysAsItWas(t *testing.T) {
 			continue
 		}
 		before := told(x, g, w)
-		overwrite(given)
+		samples.Overwrite(given)
 		if after := told(x, g, w); after != before || after != told(made(t, g, w), g, w) {
 			t.Errorf("R4: %s, not %s", brief(after), brief(before))
 		}

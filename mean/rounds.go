@@ -95,7 +95,7 @@ func (r *rounds) follow(f fact) {
 // followName joins a name's span with those of the rests behind the name.
 func (r *rounds) followName(f fact) {
 	for _, rest := range r.ahead[f.who] {
-		for j := range r.has[rest+1].from[f.j].all() {
+		for j := range r.has[rest+1].from[f.j].All() {
 			if r.isGiven(rest+1, f.j, j) {
 				r.give(rest, f.i, j)
 			}
@@ -111,7 +111,7 @@ func (r *rounds) followRest(s api.Symbol, f fact) {
 		}
 		return
 	}
-	for i := range r.has[s.Name].to[f.i].all() {
+	for i := range r.has[s.Name].to[f.i].All() {
 		if r.isGiven(s.Name, i, f.i) {
 			r.give(f.who-1, i, f.j)
 		}

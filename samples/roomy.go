@@ -32,6 +32,18 @@ func roomy[T any](list []T, mark T) []T {
 	return out[:len(list)]
 }
 
+// Overwrite changes all of a grammar that can be changed in its lists.
+func Overwrite(g api.Grammar) {
+	for _, r := range g.Rules {
+		for c := range r.Conj {
+			clear(r.Conj[c].Seq)
+			r.Conj[c] = api.Conjunct{Neg: !r.Conj[c].Neg}
+		}
+	}
+	clear(g.Rules)
+	clear(g.Names)
+}
+
 // Same: are two grammars the same, the spare room of their lists too?
 func Same(a, b api.Grammar) bool {
 	return a.Start == b.Start && len(a.Names) == len(b.Names) && len(a.Rules) == len(b.Rules) &&

@@ -7,6 +7,7 @@ import (
 	"temple/api"
 	"temple/gram"
 	"temple/samples"
+	"temple/seqs"
 	"temple/strata"
 )
 
@@ -121,6 +122,45 @@ func TestRoomyIsApart(t *testing.T) {
 	h.Rules[0].Conj[0].Seq[0] = samples.Ref(0)
 	if !samples.Same(samples.Roomy(g), samples.Roomy(samples.Plain())) {
 		t.Errorf("%v", g)
+	}
+}
+
+// TestOverwriteLeavesNothing: no list keeps anything that it had.
+func TestOverwriteLeavesNothing(t *testing.T) {
+	g := samples.Plain()
+	rules, seq := slices.Clone(g.Rules), g.Rules[0].Conj[0].Seq
+	samples.Overwrite(g)
+	for _, n := range g.Names {
+		if n != "" {
+			t.Errorf("the name %q", n)
+		}
+	}
+	for i, r := range g.Rules {
+		if r.Head != 0 || r.Conj != nil {
+			t.Errorf("rule %d: %v", i, r)
+		}
+		for j, c := range rules[i].Conj {
+			if c.Seq != nil || c.Neg == samples.Plain().Rules[i].Conj[j].Neg {
+				t.Errorf("rule %d, conjunct %d: %v", i, j, c)
+			}
+		}
+	}
+	if slices.ContainsFunc(seq, func(s api.Symbol) bool { return s != api.Symbol{} }) {
+		t.Errorf("the symbols %v", seq)
+	}
+}
+
+// TestGreatestIsGreatest: it may be, has levels, and has no room for more.
+func TestGreatestIsGreatest(t *testing.T) {
+	g := samples.Greatest()
+	if _, _, e := strata.Strata(g); e != api.OK {
+		t.Fatalf("%d", e)
+	}
+	if len(g.Names) != api.MaxNames || len(g.Rules) != api.MaxRules {
+		t.Errorf("%d names, %d rules", len(g.Names), len(g.Rules))
+	}
+	if got, most := seqs.Count(g), api.MaxSymbols+api.MaxRules*api.MaxConj; got != most {
+		t.Errorf("%d places, not %d", got, most)
 	}
 }
 
