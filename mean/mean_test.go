@@ -22,8 +22,7 @@ var (
 	rule, named = samples.Rule, samples.Named
 )
 
-// mixed is a text with many different spans, as long as a text can be.
-const mixed = "abcabbccaaabacbcabacabaaabbbccca"
+const mixed = samples.MixedText
 
 // alt is the conjuncts of a rule.
 func alt(conjuncts ...api.Conjunct) []api.Conjunct {

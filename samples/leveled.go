@@ -8,6 +8,10 @@ const (
 	someBytes = 3
 )
 
+// MixedText is a text of many different pieces, of bytes that Leveled has, as long
+// as a text can be.
+const MixedText = "abcabbccaaabacbcabacabaaabbbccca"
+
 // Text is any text of up to so many bytes, of those that Leveled has.
 func (r *Numbers) Text(most int) string {
 	var out []byte

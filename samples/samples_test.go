@@ -83,6 +83,17 @@ func TestTextsAreShort(t *testing.T) {
 	}
 }
 
+// TestMixedTextIsMixed: it is as long as can be, and has all pieces of two bytes.
+func TestMixedTextIsMixed(t *testing.T) {
+	pieces := make(map[string]int)
+	for i := range len(samples.MixedText) - 1 {
+		pieces[samples.MixedText[i:i+2]]++
+	}
+	if len(samples.MixedText) != api.MaxInput || len(pieces) != 9 {
+		t.Errorf("%d bytes, %v", len(samples.MixedText), pieces)
+	}
+}
+
 // TestRoomyShowsChanges: a change in any list, and in the spare room of any,
 // is seen.
 func TestRoomyShowsChanges(t *testing.T) {
@@ -161,6 +172,18 @@ func TestGreatestIsGreatest(t *testing.T) {
 	}
 	if got, most := seqs.Count(g), api.MaxSymbols+api.MaxRules*api.MaxConj; got != most {
 		t.Errorf("%d places, not %d", got, most)
+	}
+}
+
+// TestHeavyMayBe: heavy grammars have levels, and each is at some limit.
+func TestHeavyMayBe(t *testing.T) {
+	for i, g := range samples.Heavy() {
+		if _, _, e := strata.Strata(g); e != api.OK {
+			t.Errorf("grammar %d: %d", i, e)
+		}
+		if most := len(g.Rules[0].Conj[0].Seq); len(g.Names) != api.MaxNames && most != api.MaxSeq {
+			t.Errorf("grammar %d: %d names, %d symbols", i, len(g.Names), most)
+		}
 	}
 }
 

@@ -2,6 +2,7 @@ package table
 
 import (
 	"temple/api"
+	"temple/engines"
 	"temple/points"
 	"temple/symbols"
 )
@@ -32,11 +33,13 @@ type growth struct {
 // fill fills the last column: level by level, as what a rule negates stands at
 // lower ones.
 func (e *Engine) fill() {
-	f := &filling{Engine: e, rests: make([]points.Set, len(e.plan.places)), level: noLevel}
-	for _, end := range e.plan.ends {
-		f.addRest(end, points.One(e.length))
+	f := &filling{Engine: e, rests: make([]points.Set, len(e.plan.Places)), level: noLevel}
+	for _, r := range e.plan.Rules {
+		for _, c := range r.Conj {
+			f.addRest(c.End, points.One(e.length))
+		}
 	}
-	for level, rules := range e.plan.levels {
+	for level, rules := range e.plan.Levels {
 		f.level = level
 		f.settle(rules)
 	}
@@ -45,7 +48,7 @@ func (e *Engine) fill() {
 // settle finds what the names of a level have, by all of their rules.
 func (f *filling) settle(rules []int) {
 	for _, n := range rules {
-		f.apply(f.plan.rules[n])
+		f.apply(f.plan.Rules[n])
 	}
 	for len(f.waiting) > 0 {
 		last := len(f.waiting) - 1
@@ -56,17 +59,17 @@ func (f *filling) settle(rules []int) {
 }
 
 // apply gives a rule's head what all of its conjuncts together say.
-func (f *filling) apply(r rule) {
+func (f *filling) apply(r engines.Rule) {
 	holds := points.UpTo(f.length)
-	for _, c := range r.conj {
+	for _, c := range r.Conj {
 		f.steps++
-		if c.neg {
-			holds &^= f.rests[c.first]
+		if c.Neg {
+			holds &^= f.rests[c.First]
 		} else {
-			holds &= f.rests[c.first]
+			holds &= f.rests[c.First]
 		}
 	}
-	f.addName(r.head, holds)
+	f.addName(r.Head, holds)
 }
 
 // addName gives a name points.
@@ -82,7 +85,7 @@ func (f *filling) addName(name int, set points.Set) {
 // spans of the name end where the column does, the rest behind it must have the
 // empty one there.
 func (f *filling) passOn(g growth) {
-	for _, p := range f.plan.stands[g.name] {
+	for _, p := range f.plan.Stands[g.name] {
 		f.steps++
 		if f.rests[p+1].Has(f.length) {
 			f.addRest(p, g.set)
@@ -99,19 +102,19 @@ func (f *filling) addRest(p int, set points.Set) {
 			return
 		}
 		f.rests[p] |= fresh
-		if f.plan.places[p].isFirst {
-			f.whole(f.plan.places[p].rule)
+		if f.plan.Places[p].IsFirst {
+			f.whole(f.plan.Places[p].Rule)
 			return
 		}
 		p--
-		set = f.ahead(f.plan.places[p].symbol, fresh)
+		set = f.ahead(f.plan.Places[p].Symbol, fresh)
 	}
 }
 
 // whole applies a rule of which a conjunct has more as a whole, unless its
 // level is still to come: all rules of that are applied then.
 func (f *filling) whole(n int) {
-	if r := f.plan.rules[n]; r.level == f.level {
+	if r := f.plan.Rules[n]; r.Level == f.level {
 		f.apply(r)
 	}
 }
