@@ -84,7 +84,7 @@ func TestFedNothing(t *testing.T) {
 func TestNoBytes(t *testing.T) {
 	g := samples.Read(`start S; S = A & ~ "aab"; A = 'a'..'b' A | B; B = "b" B | "";`)
 	const w = "aabbabba"
-	for _, k := range kinds() {
+	for _, k := range kinds(t) {
 		x, other := k.made(t, g), k.made(t, g)
 		for n := range len(w) + 1 {
 			for _, c := range noBytes() {
@@ -107,7 +107,7 @@ func TestFull(t *testing.T) {
 		`start S; S = "a" S "a" | "a" S "b" | "b" S "a" | "b" S "b" | "a" | "b";`,
 		`start S; S = ~ "a";`,
 	} {
-		for _, k := range kinds() {
+		for _, k := range kinds(t) {
 			x := k.made(t, samples.Read(text))
 			for n := range api.MaxInput {
 				if x.Len() != n {
@@ -130,7 +130,7 @@ func TestFull(t *testing.T) {
 // TestFullAndNoByte: R6: that it is no byte is said ahead of that there is no
 // room.
 func TestFullAndNoByte(t *testing.T) {
-	for _, k := range kinds() {
+	for _, k := range kinds(t) {
 		x := k.fed(t, samples.Read(`start S; S = "a" S | "";`), strings.Repeat("a", api.MaxInput))
 		for _, c := range noBytes() {
 			k.wantRefused(t, x, c, k.form)

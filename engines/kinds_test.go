@@ -8,6 +8,7 @@ import (
 	"testing"
 
 	"temple/api"
+	"temple/both"
 	"temple/chart"
 	"temple/mean"
 	"temple/samples"
@@ -38,8 +39,9 @@ type kind struct {
 	form, full api.Errno
 }
 
-// kinds is all of them: whatever is tested here is tested of each one.
-func kinds() []kind {
+// kinds is all of them, and pairs of them: whatever is tested here is tested of
+// each one.
+func kinds(t *testing.T) []kind {
 	return []kind{{
 		promise: "P15.1",
 		create:  func(g api.Grammar) (engine, api.Errno) { return asEngine(table.New(g)) },
@@ -52,6 +54,12 @@ func kinds() []kind {
 		none:    (*chart.Engine)(nil),
 		form:    api.ErrChartForm,
 		full:    api.ErrChartFull,
+	}, {
+		promise: "P17.1",
+		create:  func(g api.Grammar) (engine, api.Errno) { return asPair(t, g) },
+		none:    pair{t: t},
+		form:    api.ErrBothForm,
+		full:    api.ErrBothFull,
 	}}
 }
 
@@ -65,6 +73,37 @@ func asEngine[E interface {
 		return nil, e
 	}
 	return x, e
+}
+
+// pair is two engines side by side, as one that says what they all say.
+type pair struct {
+	*both.Pair
+	t *testing.T
+}
+
+// asPair is an answer of New of layer 17; a pointer that is nil is no engine.
+func asPair(t *testing.T, g api.Grammar) (engine, api.Errno) {
+	p, e := both.New(g)
+	if p == nil {
+		return nil, e
+	}
+	return pair{p, t}, e
+}
+
+// In: P17.2: each of the numbers is told the same.
+func (p pair) In() bool {
+	p.t.Helper()
+	want := api.OK
+	if p.Pair == nil {
+		want = api.ErrNil
+	}
+	first, _ := p.Pair.In(api.EngineTable)
+	for _, number := range []int{api.EngineTable, api.EngineChart, api.EngineBoth} {
+		if in, e := p.Pair.In(number); in != first || e != want {
+			p.t.Errorf("P17.2: %d bytes, In(%d) = %v, %d, not %v, %d", p.Len(), number, in, e, first, want)
+		}
+	}
+	return first
 }
 
 // brief tells the beginning of something that may be long.
@@ -124,7 +163,7 @@ func (k kind) wantRefused(t *testing.T, x engine, c int, want api.Errno) {
 // wantNone: there is no engine, and none beside the error.
 func wantNone(t *testing.T, what string, g api.Grammar) {
 	t.Helper()
-	for _, k := range kinds() {
+	for _, k := range kinds(t) {
 		if x, e := k.create(g); x != nil || e != k.form {
 			t.Errorf("%s: %s: New(%s) = %v, %d", k.promise, what, brief(g), x != nil, e)
 		}
@@ -135,7 +174,7 @@ func wantNone(t *testing.T, what string, g api.Grammar) {
 // is wanted, asked once and twice.
 func wantEach(t *testing.T, g api.Grammar, w string, wanted func(s string) bool) {
 	t.Helper()
-	for _, k := range kinds() {
+	for _, k := range kinds(t) {
 		x := k.made(t, g)
 		for n := range len(w) + 1 {
 			if n > 0 {

@@ -31,7 +31,7 @@ func (k kind) toldOf(t *testing.T, g api.Grammar, w string) []string {
 
 // TestNoEngine: R3: no engine takes a byte, and nothing is told of it.
 func TestNoEngine(t *testing.T) {
-	for _, k := range kinds() {
+	for _, k := range kinds(t) {
 		for _, c := range append(noBytes(), 0, 'a', 255) {
 			k.wantRefused(t, k.none, c, api.ErrNil)
 		}
@@ -64,7 +64,7 @@ func TestGrammarStaysAsItWas(t *testing.T) {
 	}
 	for _, g := range all {
 		for _, w := range []string{"", "axabc", "abcab"} {
-			for _, k := range kinds() {
+			for _, k := range kinds(t) {
 				k.wantUntouched(t, g, w)
 			}
 		}
@@ -111,7 +111,7 @@ func TestInTurns(t *testing.T) {
 		for range grammars {
 			texts = append(texts, r.Text(8))
 		}
-		for _, k := range kinds() {
+		for _, k := range kinds(t) {
 			k.wantInTurns(t, &r, grammars, texts)
 		}
 	}
@@ -146,7 +146,7 @@ func TestSameCalls(t *testing.T) {
 	r := samples.Numbers(156)
 	for range 100 {
 		g, w := r.Leveled(6), r.Text(10)
-		for _, k := range kinds() {
+		for _, k := range kinds(t) {
 			want := k.toldOf(t, g, w)
 			x := k.made(t, g)
 			for i := range len(w) + 1 {
@@ -169,7 +169,7 @@ func TestSameCalls(t *testing.T) {
 func TestSeveralGoroutines(t *testing.T) {
 	g := samples.Read(`start S; S = A & ~ B; A = "a" A | "b" | ""; B = A "b" & ~ "b";`)
 	var group sync.WaitGroup
-	for _, k := range kinds() {
+	for _, k := range kinds(t) {
 		want := fmt.Sprint(k.toldOf(t, g, "aab"))
 		for range 8 {
 			group.Go(func() {
