@@ -1,5 +1,5 @@
-// Package samples: grammars for the tests of the layers that take them. No
-// layer calls it.
+// Package samples: grammars, and what has a proof's form, for the tests of the
+// layers that take them. No layer calls it.
 package samples
 
 import (

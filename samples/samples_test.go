@@ -225,3 +225,99 @@ func TestEachOrderAndChoice(t *testing.T) {
 		t.Errorf("%d rows of no numbers", count)
 	}
 }
+
+// TestCertsFit: their numbers fit, and nothing stands where a kind has nothing; both
+// kinds are there, and numbers at both ends.
+func TestCertsFit(t *testing.T) {
+	r := samples.Numbers(4)
+	kinds, least, greatest := make(map[int]int), 0, 0
+	for range 1000 {
+		c := r.Cert()
+		for _, n := range c.Nodes {
+			kinds[n.Kind]++
+			if n.Kind == api.NodeName && n.Place != (api.Place{}) || n.Kind == api.NodeSeq && n.Name != 0 {
+				t.Fatalf("%v", n)
+			}
+			if n.I < 0 || n.I > 255 || n.Rank < 0 || n.Rank > 1<<32-1 || n.Name > 65535 || n.Place.Rule > 65535 {
+				t.Fatalf("%v", n)
+			}
+			if n.Rank == 0 {
+				least++
+			}
+			if n.Rank == 1<<32-1 {
+				greatest++
+			}
+		}
+	}
+	if len(kinds) != 2 || kinds[api.NodeName] < 500 || kinds[api.NodeSeq] < 500 || least < 100 || greatest < 100 {
+		t.Errorf("%v, %d, %d", kinds, least, greatest)
+	}
+}
+
+// twoNodes is a proof's form with lists of all kinds, empty ones too.
+func twoNodes() api.Cert {
+	return api.Cert{Root: 1, Nodes: []api.Node{
+		{Kind: api.NodeSeq, Picks: []api.Pick{{At: 1, Kids: []int{2, 3}}, {}}},
+		{Sign: true},
+	}}
+}
+
+// TestRoomyCertShowsChanges: a change in any list, and in the spare room of any,
+// is seen.
+func TestRoomyCertShowsChanges(t *testing.T) {
+	fresh := func() api.Cert { return samples.RoomyCert(twoNodes()) }
+	if !samples.SameCert(fresh(), fresh()) {
+		t.Fatalf("%v, %v", fresh(), fresh())
+	}
+	for what, change := range map[string]func(c *api.Cert){
+		"the root":                    func(c *api.Cert) { c.Root = 0 },
+		"fewer nodes":                 func(c *api.Cert) { c.Nodes = c.Nodes[:1] },
+		"a sign":                      func(c *api.Cert) { c.Nodes[1].Sign = false },
+		"a kind":                      func(c *api.Cert) { c.Nodes[0].Kind = api.NodeName },
+		"a name":                      func(c *api.Cert) { c.Nodes[0].Name = 1 },
+		"a place":                     func(c *api.Cert) { c.Nodes[0].Place.Pos = 1 },
+		"an I":                        func(c *api.Cert) { c.Nodes[1].I = 1 },
+		"a J":                         func(c *api.Cert) { c.Nodes[1].J = 1 },
+		"a rank":                      func(c *api.Cert) { c.Nodes[1].Rank = 1 },
+		"spare room of nodes":         func(c *api.Cert) { _ = append(c.Nodes, api.Node{}) },
+		"fewer picks":                 func(c *api.Cert) { c.Nodes[0].Picks = c.Nodes[0].Picks[:1] },
+		"an At":                       func(c *api.Cert) { c.Nodes[0].Picks[1].At = 1 },
+		"a pick's Conj":               func(c *api.Cert) { c.Nodes[0].Picks[1].Conj = 1 },
+		"spare room of picks":         func(c *api.Cert) { _ = append(c.Nodes[0].Picks, api.Pick{}) },
+		"fewer kids":                  func(c *api.Cert) { c.Nodes[0].Picks[0].Kids = nil },
+		"a kid":                       func(c *api.Cert) { c.Nodes[0].Picks[0].Kids[1] = 4 },
+		"spare room of kids":          func(c *api.Cert) { _ = append(c.Nodes[0].Picks[0].Kids, 4) },
+		"spare room of an empty list": func(c *api.Cert) { _ = append(c.Nodes[1].Picks, api.Pick{}) },
+	} {
+		c := fresh()
+		change(&c)
+		if samples.SameCert(c, fresh()) || samples.SameCert(fresh(), c) {
+			t.Errorf("%s: not seen", what)
+		}
+	}
+}
+
+// TestRoomyCertIsApart: whoever overwrites what RoomyCert answers changes nothing
+// else, and nothing is left there.
+func TestRoomyCertIsApart(t *testing.T) {
+	c := twoNodes()
+	d := samples.RoomyCert(c)
+	picks, kids := d.Nodes[0].Picks, d.Nodes[0].Picks[0].Kids
+	samples.OverwriteCert(d)
+	if !samples.SameCert(samples.RoomyCert(c), samples.RoomyCert(twoNodes())) {
+		t.Errorf("%v", c)
+	}
+	for i, n := range d.Nodes[:cap(d.Nodes)] {
+		if n.Kind != -1 || n.Sign || len(n.Picks) != 1 {
+			t.Errorf("node %d: %v", i, n)
+		}
+	}
+	for i, p := range picks[:cap(picks)] {
+		if p.At != -1 {
+			t.Errorf("pick %d: %v", i, p)
+		}
+	}
+	if slices.ContainsFunc(kids[:cap(kids)], func(kid int) bool { return kid != -1 }) {
+		t.Errorf("the kids %v", kids[:cap(kids)])
+	}
+}
